@@ -2,6 +2,7 @@ package system
 
 import (
 	"makeweight/api"
+	"makeweight/terms"
 )
 
 // classes returns for each state a number that it has in common with those
@@ -49,7 +50,7 @@ func newSplitter(states [][]api.Edge) *splitter {
 	}
 	var offering [1 << api.MaxActions][]int
 	for state, edges := range states {
-		set := offered(edges)
+		set := terms.Offered(edges)
 		offering[set] = append(offering[set], state)
 		for _, e := range edges {
 			l := &s.sources[e.To][e.Action]
