@@ -6,6 +6,7 @@ import (
 
 	"makeweight/api"
 	"makeweight/spec"
+	"makeweight/steps"
 )
 
 // Trim returns the trimmed specification of s, and for each of its states the
@@ -19,7 +20,7 @@ func Trim(s api.Spec) (api.Spec, []int, api.Errno) {
 		none, _ := spec.None(s.Actions)
 		return none, nil, api.OK
 	}
-	states := without(s.States, ladder)
+	states := steps.Without(s.States, ladder)
 	numbers := make([]int, len(states))
 	var from []int
 	for number := range found(states) {
@@ -34,30 +35,6 @@ func Trim(s api.Spec) (api.Spec, []int, api.Errno) {
 	return trimmed, from, api.OK
 }
 
-// without returns the states with only the sets and the actions that lead to
-// none of the hollow ones.
-func without(states []api.State, hollow []int) []api.State {
-	marked := make([]bool, len(states))
-	for _, number := range hollow {
-		marked[number] = true
-	}
-	var left []api.State
-	for _, state := range states {
-		kept := api.State{Next: slices.Repeat([]int{nowhere}, len(state.Next))}
-		for _, set := range state.Accept {
-			if meets(state, set, marked) {
-				continue
-			}
-			kept.Accept = append(kept.Accept, set)
-			for action, to := range leads(state, set) {
-				kept.Next[action] = to
-			}
-		}
-		left = append(left, kept)
-	}
-	return left
-}
-
 // found yields the states that can be reached, in the order in which they are
 // found: state 0 first, then for each the new ones to which its actions lead.
 func found(states []api.State) iter.Seq[int] {
@@ -70,7 +47,7 @@ func found(states []api.State) iter.Seq[int] {
 				return
 			}
 			for _, to := range states[queue[i]].Next {
-				if to != nowhere && !known[to] {
+				if to != steps.Nowhere && !known[to] {
 					known[to] = true
 					queue = append(queue, to)
 				}
@@ -82,7 +59,7 @@ func found(states []api.State) iter.Seq[int] {
 // renumber replaces the states to which actions lead by their new numbers.
 func renumber(next, numbers []int) {
 	for action, to := range next {
-		if to != nowhere {
+		if to != steps.Nowhere {
 			next[action] = numbers[to]
 		}
 	}
