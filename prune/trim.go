@@ -29,7 +29,7 @@ func Trim(s api.Spec) (api.Spec, []int, api.Errno) {
 	}
 	trimmed := api.Spec{Actions: slices.Clone(s.Actions)}
 	for _, number := range from {
-		renumber(states[number].Next, numbers)
+		steps.Renumber(states[number].Next, numbers)
 		trimmed.States = append(trimmed.States, states[number])
 	}
 	return trimmed, from, api.OK
@@ -52,15 +52,6 @@ func found(states []api.State) iter.Seq[int] {
 					queue = append(queue, to)
 				}
 			}
-		}
-	}
-}
-
-// renumber replaces the states to which actions lead by their new numbers.
-func renumber(next, numbers []int) {
-	for action, to := range next {
-		if to != steps.Nowhere {
-			next[action] = numbers[to]
 		}
 	}
 }

@@ -1,6 +1,7 @@
 // Package steps has what several layers share of how specifications go on: where
 // the sets that a state accepts lead, what is left of states without those that
-// lead to hollow ones, and systems that go on with a word.
+// lead to hollow ones, other numbers for states, and systems that go on with a
+// word.
 package steps
 
 import (
@@ -63,4 +64,14 @@ func Without(states []api.State, hollow []int) []api.State {
 		left = append(left, kept)
 	}
 	return left
+}
+
+// Renumber replaces the states in next, that of a state of a specification, by
+// their new numbers.
+func Renumber(next, numbers []int) {
+	for action, to := range next {
+		if to != Nowhere {
+			next[action] = numbers[to]
+		}
+	}
 }

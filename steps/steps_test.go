@@ -149,3 +149,15 @@ func TestAlongWithoutHollowStates(t *testing.T) {
 		checkAlong(t, left, word)
 	}
 }
+
+func TestRenumber(t *testing.T) {
+	for _, c := range []struct{ next, numbers, want []int }{
+		{nil, []int{0}, nil}, {[]int{0, 1, 2}, []int{2, 0, 0}, []int{2, 0, 0}}, {[]int{-1, 1, -1, 0, 1}, []int{7, 3}, []int{-1, 3, -1, 7, 3}}, {[]int{-1}, nil, []int{-1}},
+	} {
+		got := slices.Clone(c.next)
+		steps.Renumber(got, c.numbers)
+		if !slices.Equal(got, c.want) {
+			t.Errorf("Renumber of %v by %v: %v, want %v", c.next, c.numbers, got, c.want)
+		}
+	}
+}
