@@ -5,6 +5,7 @@ import (
 	"slices"
 
 	"makeweight/api"
+	"makeweight/numbering"
 	"makeweight/steps"
 )
 
@@ -49,16 +50,10 @@ func rounds(states []api.State) iter.Seq[[]int] {
 // numbered returns for each item the number of its key among the different keys,
 // in the order of their first occurrence.
 func numbered[T any, K comparable](items []T, keyOf func(place int, item T) K) []int {
-	numbers := map[K]int{}
+	keys := numbering.Of[K]()
 	var l []int
 	for place, item := range items {
-		key := keyOf(place, item)
-		number, known := numbers[key]
-		if !known {
-			number = len(numbers)
-			numbers[key] = number
-		}
-		l = append(l, number)
+		l = append(l, keys.Number(keyOf(place, item)))
 	}
 	return l
 }

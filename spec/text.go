@@ -7,6 +7,7 @@ import (
 
 	"makeweight/act"
 	"makeweight/api"
+	"makeweight/steps"
 	"makeweight/terms"
 )
 
@@ -25,7 +26,7 @@ func String(s api.Spec) (string, api.Errno) {
 		}
 		line.WriteString(" ->")
 		for action, to := range state.Next {
-			if to != nowhere {
+			if to != steps.Nowhere {
 				line.WriteString(" " + s.Actions[action] + " " + strconv.Itoa(to))
 			}
 		}
@@ -76,7 +77,7 @@ func readers() map[part]func(r *reader, word string) bool {
 
 // parseState reads the sets that a state accepts, and the actions that lead on.
 func parseState(actions, words []string) (api.State, bool) {
-	next := slices.Repeat([]int{nowhere}, len(actions))
+	next := slices.Repeat([]int{steps.Nowhere}, len(actions))
 	r := &reader{actions: actions, action: -1, state: api.State{Next: next}}
 	read := readers()
 	for _, word := range words {

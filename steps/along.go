@@ -6,6 +6,7 @@ import (
 	"slices"
 
 	"makeweight/api"
+	"makeweight/numbering"
 )
 
 // Along returns a system that satisfies s and has, after the word, which may be
@@ -82,18 +83,11 @@ func (p *plan) links(n node) iter.Seq2[int, node] {
 // system returns the system of the nodes that can be reached from a first one.
 func (p *plan) system(first node) api.System {
 	m := api.System{Actions: slices.Clone(p.s.Actions)}
-	numbers := map[node]int{first: 0}
-	queue := []node{first}
-	for i := 0; i < len(queue); i++ {
+	nodes := numbering.Of(first)
+	for i := 0; i < len(nodes.Values); i++ {
 		var edges []api.Edge
-		for action, to := range p.links(queue[i]) {
-			number, known := numbers[to]
-			if !known {
-				number = len(queue)
-				numbers[to] = number
-				queue = append(queue, to)
-			}
-			edges = append(edges, api.Edge{Action: action, To: number})
+		for action, to := range p.links(nodes.Values[i]) {
+			edges = append(edges, api.Edge{Action: action, To: nodes.Number(to)})
 		}
 		slices.SortFunc(edges, byActionAndTo)
 		m.States = append(m.States, edges)

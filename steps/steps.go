@@ -1,7 +1,7 @@
 // Package steps has what several layers share of how specifications go on: where
-// the sets that a state accepts lead, what is left of states without those that
-// lead to hollow ones, other numbers for states, and systems that go on with a
-// word.
+// the sets that a state accepts and words lead, what is left of states without
+// those that lead to hollow ones, other numbers for states, and systems that go
+// on with a word.
 package steps
 
 import (
@@ -23,6 +23,19 @@ func Leads(state api.State, set int) iter.Seq2[int, int] {
 			}
 		}
 	}
+}
+
+// After returns the state of s after the word, which may be longer than others,
+// and true; false if there is none.
+func After(s api.Spec, word []int) (int, bool) {
+	state := 0
+	for _, action := range word {
+		state = s.States[state].Next[action]
+		if state == Nowhere {
+			return 0, false
+		}
+	}
+	return state, true
 }
 
 // Meets reports whether an action of a set that a state accepts leads to a

@@ -38,6 +38,23 @@ func TestLeads(t *testing.T) {
 	}
 }
 
+func TestAfter(t *testing.T) {
+	s := of("spec a b;0: {a} {b} -> a 1 b 0;1: {} {b} -> b 2;2: ->;3: {} -> a 0")
+	long := slices.Repeat([]int{1}, 20000)
+	for _, c := range []struct {
+		word  []int
+		state int
+		there bool
+	}{
+		{nil, 0, true}, {[]int{0}, 1, true}, {[]int{1, 1, 0, 1}, 2, true}, {long, 0, true}, {append(long, 0), 1, true},
+		{[]int{0, 0}, 0, false}, {[]int{0, 1, 0}, 0, false}, {[]int{0, 0, 1}, 0, false}, {append([]int{0, 1}, long...), 0, false},
+	} {
+		if state, there := steps.After(s, c.word); state != c.state || there != c.there {
+			t.Errorf("After %.40v = %d %v, want %d %v", c.word, state, there, c.state, c.there)
+		}
+	}
+}
+
 func TestMeets(t *testing.T) {
 	state := api.State{Accept: []int{0, 3, 7}, Next: []int{0, 1, 2}}
 	for _, c := range []struct {

@@ -4,6 +4,7 @@ import (
 	"slices"
 
 	"makeweight/api"
+	"makeweight/numbering"
 )
 
 // Alike reports whether the states 0 of two systems behave alike.
@@ -24,11 +25,11 @@ func Least(m api.System) (api.System, []int, api.Errno) {
 		return api.System{}, nil, e
 	}
 	alike := classes(part.States)
-	found := newNumbering[int]()
+	found := numbering.Of[int]()
 	least := api.System{Actions: part.Actions}
 	classOf := slices.Repeat([]int{-1}, len(m.States))
 	for state, number := range numbers {
-		c := found.number(alike[state])
+		c := found.Number(alike[state])
 		classOf[number] = c
 		if c == len(least.States) {
 			least.States = append(least.States, part.States[state])
