@@ -2,6 +2,7 @@ package meet
 
 import (
 	"makeweight/api"
+	"makeweight/pairs"
 	"makeweight/steps"
 )
 
@@ -23,7 +24,7 @@ const (
 
 // sideWithout returns the side that allows everything but the words, none of
 // which is empty. Those that cannot be done in s anyway have no nodes.
-func sideWithout(words [][]int, s api.Spec) side {
+func sideWithout(words [][]int, s api.Spec) pairs.Side {
 	t := make(tree, nodes)
 	first := elsewhere
 	for _, word := range words {
@@ -32,10 +33,10 @@ func sideWithout(words [][]int, s api.Spec) side {
 			first = root
 		}
 	}
-	return side{
-		first:  first,
-		accept: func(at int) []int { return t.allowed(at, len(s.Actions)) },
-		lead:   func(at, action int) int { return t[at].next[action] },
+	return pairs.Side{
+		First:  first,
+		Accept: func(at int) []int { return t.allowed(at, len(s.Actions)) },
+		Lead:   func(at, action int) int { return t[at].next[action] },
 	}
 }
 

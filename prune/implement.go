@@ -6,6 +6,7 @@ import (
 	"makeweight/api"
 	"makeweight/spec"
 	"makeweight/steps"
+	"makeweight/terms"
 )
 
 // maxSteps is the greatest number of actions of the words that Words returns.
@@ -31,7 +32,7 @@ func With(s api.Spec, word []int, set int) (api.System, api.Errno) {
 	if e != api.OK {
 		return api.System{}, e
 	}
-	if set < 0 || set >= 1<<len(s.Actions) {
+	if !terms.IsSet(set, len(s.Actions)) {
 		return api.System{}, api.ErrArg
 	}
 	trimmed, _, _ := Trim(s)

@@ -1,6 +1,6 @@
 // Package terms has what several layers share of the terms and rules of
-// shared/DOC.md: words of actions, what states offer, and the strings of systems
-// and specifications.
+// shared/DOC.md: words and sets of actions, what states offer, and the strings
+// of systems and specifications.
 package terms
 
 import (
@@ -23,6 +23,11 @@ func IsWord(word []int, actions int) bool {
 		}
 	}
 	return true
+}
+
+// IsSet reports whether set is a set of so many actions.
+func IsSet(set, actions int) bool {
+	return set >= 0 && set < 1<<actions
 }
 
 // Offered returns the set of the actions of edges.

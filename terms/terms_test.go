@@ -27,6 +27,20 @@ func TestIsWord(t *testing.T) {
 	}
 }
 
+func TestIsSet(t *testing.T) {
+	for _, c := range []struct {
+		set, actions int
+		want         bool
+	}{
+		{0, 0, true}, {0, 8, true}, {1, 1, true}, {3, 2, true}, {255, 8, true},
+		{1, 0, false}, {2, 1, false}, {4, 2, false}, {256, 8, false}, {-1, 8, false}, {-1, 0, false}, {math.MaxInt, 8, false}, {math.MinInt, 8, false},
+	} {
+		if got := terms.IsSet(c.set, c.actions); got != c.want {
+			t.Errorf("IsSet(%d, %d) = %v", c.set, c.actions, got)
+		}
+	}
+}
+
 func TestOffered(t *testing.T) {
 	for _, c := range []struct {
 		edges []api.Edge
